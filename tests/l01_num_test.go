@@ -33,6 +33,20 @@ func allBytes() string {
 	return string(bytes)
 }
 
+// changedStrings returns the string itself and all strings that follow from it by inserting, replacing or removing one byte.
+func changedStrings(s string) []string {
+	all := []string{s}
+	for i := range len(s) + 1 {
+		for _, inserted := range stringsOver(allBytes(), 1) {
+			all = append(all, s[:i]+inserted+s[i:])
+			if i < len(s) {
+				all = append(all, s[:i]+inserted+s[i+1:])
+			}
+		}
+	}
+	return all
+}
+
 // spreadNumbers returns numbers from 0 to limit: those beside each power of two, and some between them.
 func spreadNumbers(limit int) []int {
 	var numbers []int

@@ -177,8 +177,9 @@ func TestValidDependencies(t *testing.T) {
 	}
 }
 
-func TestInvalidDependencies(t *testing.T) {
-	for _, dependency := range []impl.Dependency{
+// invalidDependencies returns dependencies that are invalid over dependencySchema.
+func invalidDependencies() []impl.Dependency {
+	return []impl.Dependency{
 		{},
 		{IsEGD: true},
 		{IsEGD: true, LeftVar: 0, RightVar: 1},
@@ -218,7 +219,11 @@ func TestInvalidDependencies(t *testing.T) {
 		{Body: atoms(atom(0, 0, 1)), Head: make([]impl.Atom, 1), IsEGD: true, LeftVar: 0, RightVar: 1},
 		// The variables of an EGD occur in its head only.
 		{Body: atoms(atom(3, 0)), Head: atoms(atom(3, 1)), IsEGD: true, LeftVar: 0, RightVar: 1},
-	} {
+	}
+}
+
+func TestInvalidDependencies(t *testing.T) {
+	for _, dependency := range invalidDependencies() {
 		checkValidDependency(t, dependency, false)
 	}
 }
