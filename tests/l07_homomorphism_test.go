@@ -178,6 +178,9 @@ func TestHomomorphismsInOrder(t *testing.T) {
 		// Different nulls may become the same value, and a null may become another null or itself.
 		{"e(n0,n1)", "e(n1,n1) e(n1,n0) e(n0,n1)", "n0=n1 n1=n1; n0=n1 n1=n0; n0=n0 n1=n1"},
 		{"a(1) e(1,n3) u(n3)", "a(0) a(1) e(0,4) e(1,5) e(1,6) u(4) u(6)", "n3=6"},
+		// The images of the nulls are those after the choice of an image of their fact.
+		{"u(n0)", "u(0) u(1)", "n0=0; n0=1"},
+		{"e(n1,n0)", "e(0,1) e(1,0)", "n0=1 n1=0; n0=0 n1=1"},
 	} {
 		got := impl.FindHomomorphisms(graph(t, c.from), graph(t, c.to))
 		if formatSubstitutions(got) != c.want {
@@ -253,6 +256,8 @@ func TestInstancesWithoutHomomorphism(t *testing.T) {
 			[2]int{15, 14}, [2]int{17, 16}, [2]int{19, 18}, [2]int{21, 20}, [2]int{23, 22}, [2]int{25, 24}, [2]int{27, 26}, [2]int{29, 28}), edges(0, bothWays(path(15))...)},
 		{edges(0, bothWays(cycle(3))...) + " " + edges(3, tournament(7)...), edges(0, tournament(7)...) + " " + edges(8, bothWays(path(4))...)},
 		{edges(0, path(29)...) + " u(n0)", edges(0, bothWays(path(14))...) + " t(1,1,1)"},
+		// The fact of u leaves one image of n0, and the others then need a directed triangle of 2 and 3.
+		{"e(n3,n1) e(n2,n3) e(n1,n2) e(n0,n3) e(n0,n2) e(n0,n1) u(n0)", "e(1,2) e(1,3) e(2,3) e(3,2) e(4,5) e(4,6) e(4,7) e(5,6) e(6,7) e(7,5) u(1)"},
 	} {
 		checkNoHomomorphism(t, graph(t, c.from), graph(t, c.to))
 	}
